@@ -35,22 +35,27 @@ const (
 	binarySigns = "&|=<+-"
 )
 
-// ExprValid reports whether e is a valid expression.
-func ExprValid(e Expr) bool {
-	nodes, ok := countNodes(e, MaxExprDepth)
-	return ok && nodes <= MaxExprNodes
+// tree is what expressions and formulas have in common: T is the type itself.
+type tree[T any] interface {
+	// label returns the fields of the node, without its operands.
+	label() [2]int
+	operands() []T
 }
 
-// countNodes counts the nodes of e if all of them are well formed and none is
-// deeper than depth. The bound on the depth makes it end even if the operands
-// of e lead back to e.
-func countNodes(e Expr, depth int) (int, bool) {
-	if depth == 0 || !nodeWellFormed(e) {
+func (e Expr) label() [2]int { return [2]int{e.Kind, e.Value} }
+
+func (e Expr) operands() []Expr { return e.Kids }
+
+// countNodes counts the nodes of a tree if all of them are well formed and none
+// is deeper than depth. The bound on the depth makes it end even if the operands
+// of a node lead back to the node.
+func countNodes[T tree[T]](node T, depth int, wellFormed func(node T) bool) (int, bool) {
+	if depth == 0 || !wellFormed(node) {
 		return 0, false
 	}
 	nodes := 1
-	for _, kid := range e.Kids {
-		n, ok := countNodes(kid, depth-1)
+	for _, kid := range node.operands() {
+		n, ok := countNodes(kid, depth-1, wellFormed)
 		if !ok {
 			return 0, false
 		}
@@ -58,6 +63,65 @@ func countNodes(e Expr, depth int) (int, bool) {
 	}
 	return nodes, true
 }
+
+// treeLists are two lists of operands that have to be equal.
+type treeLists[T any] struct {
+	a, b []T
+}
+
+// treePlaces identifies two lists of operands of the same length.
+type treePlaces[T any] struct {
+	a, b *T
+	size int
+}
+
+// sameTrees reports whether a and b are equal in every field, at every level.
+//
+// Invalid trees may be of any depth, share operands or lead back to themselves,
+// so there is no recursion, and no two lists are compared twice.
+func sameTrees[T tree[T]](a, b T) bool {
+	work := []treeLists[T]{{[]T{a}, []T{b}}}
+	seen := map[treePlaces[T]]bool{}
+	for len(work) > 0 {
+		next := work[len(work)-1]
+		work = work[:len(work)-1]
+		if len(next.a) != len(next.b) {
+			return false
+		}
+		if len(next.a) == 0 {
+			continue
+		}
+		places := treePlaces[T]{&next.a[0], &next.b[0], len(next.a)}
+		if seen[places] {
+			continue
+		}
+		seen[places] = true
+		for i, x := range next.a {
+			y := next.b[i]
+			if x.label() != y.label() {
+				return false
+			}
+			work = append(work, treeLists[T]{x.operands(), y.operands()})
+		}
+	}
+	return true
+}
+
+// foldTree computes a result for a valid tree from those of its operands.
+func foldTree[T tree[T], R any](node T, step func(node T, kids []R) R) R {
+	operands := node.operands()
+	var kids []R
+	if len(operands) > 0 {
+		kids = make([]R, len(operands))
+	}
+	for i, kid := range operands {
+		kids[i] = foldTree(kid, step)
+	}
+	return step(node, kids)
+}
+
+// ExprValid reports whether e is a valid expression.
+func ExprValid(e Expr) bool { return ExprNodes(e) > 0 }
 
 // nodeWellFormed checks the node itself, not its operands.
 func nodeWellFormed(e Expr) bool {
@@ -74,67 +138,15 @@ func nodeWellFormed(e Expr) bool {
 	return false
 }
 
-// exprLists are two lists of operands that have to be equal.
-type exprLists struct {
-	a, b []Expr
-}
-
-// exprPlaces identifies two lists of operands of the same length.
-type exprPlaces struct {
-	a, b *Expr
-	size int
-}
-
 // ExprSame reports whether a and b are structurally equal.
-//
-// Invalid expressions may be of any depth, share operands or lead back to
-// themselves, so there is no recursion, and no two lists are compared twice.
-func ExprSame(a Expr, b Expr) bool {
-	work := []exprLists{{[]Expr{a}, []Expr{b}}}
-	seen := map[exprPlaces]bool{}
-	for len(work) > 0 {
-		next := work[len(work)-1]
-		work = work[:len(work)-1]
-		if len(next.a) != len(next.b) {
-			return false
-		}
-		if len(next.a) == 0 {
-			continue
-		}
-		places := exprPlaces{&next.a[0], &next.b[0], len(next.a)}
-		if seen[places] {
-			continue
-		}
-		seen[places] = true
-		for i, x := range next.a {
-			y := next.b[i]
-			if x.Kind != y.Kind || x.Value != y.Value {
-				return false
-			}
-			work = append(work, exprLists{x.Kids, y.Kids})
-		}
-	}
-	return true
-}
-
-// foldExpr computes a result for a valid expression from those of its operands.
-func foldExpr[T any](e Expr, step func(e Expr, kids []T) T) T {
-	var kids []T
-	if len(e.Kids) > 0 {
-		kids = make([]T, len(e.Kids))
-	}
-	for i, kid := range e.Kids {
-		kids[i] = foldExpr(kid, step)
-	}
-	return step(e, kids)
-}
+func ExprSame(a Expr, b Expr) bool { return sameTrees(a, b) }
 
 // ExprNodes returns the number of nodes of e.
 func ExprNodes(e Expr) int {
-	if !ExprValid(e) {
+	nodes, ok := countNodes(e, MaxExprDepth, nodeWellFormed)
+	if !ok || nodes > MaxExprNodes {
 		return 0
 	}
-	nodes, _ := countNodes(e, MaxExprDepth)
 	return nodes
 }
 
@@ -143,7 +155,7 @@ func ExprVars(e Expr) []bool {
 	if !ExprValid(e) {
 		return nil
 	}
-	occurs := foldExpr(e, occursInNode)
+	occurs := foldTree(e, occursInNode)
 	return occurs[:]
 }
 
@@ -165,7 +177,7 @@ func FormatExpr(e Expr) string {
 	if !ExprValid(e) {
 		return ""
 	}
-	return foldExpr(e, formatNode)
+	return foldTree(e, formatNode)
 }
 
 func formatNode(e Expr, kids []string) string {
@@ -272,7 +284,7 @@ func EvalExpr(e Expr, vals []int) (int, bool) {
 	if !ExprValid(e) || !valsValid(vals) {
 		return 0, false
 	}
-	return foldExpr(e, newNode).eval(vals), true
+	return foldTree(e, newNode).eval(vals), true
 }
 
 func valsValid(vals []int) bool {
@@ -365,11 +377,11 @@ func SubstExpr(e Expr, variable int, by Expr) (Expr, bool) {
 	if !ExprValid(e) || !ExprValid(by) || variable < 0 || variable >= MaxVars {
 		return Expr{}, false
 	}
-	result := foldExpr(e, func(n Expr, kids []Expr) Expr {
+	result := foldTree(e, func(n Expr, kids []Expr) Expr {
 		if n.Kind == ExprVar && n.Value == variable {
 			// Each occurrence gets a copy of its own: no two parts of a
 			// result share memory.
-			return foldExpr(by, rebuildNode)
+			return foldTree(by, rebuildNode)
 		}
 		return rebuildNode(n, kids)
 	})
