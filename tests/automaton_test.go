@@ -14,9 +14,8 @@ func edge(from, care, value, to int) impl.Transition {
 	return impl.Transition{From: from, Care: care, Value: value, To: to}
 }
 
-// automatonOf reads an automaton from its number of states, its initial states,
-// its accepting states and its edges, between which there are bars.
-func automatonOf(text string) impl.Automaton {
+// listsOf reads lists of numbers, between which there are bars.
+func listsOf(text string) [][]int {
 	var lists [][]int
 	for _, part := range strings.Split(text, "|") {
 		var list []int
@@ -29,6 +28,13 @@ func automatonOf(text string) impl.Automaton {
 		}
 		lists = append(lists, list)
 	}
+	return lists
+}
+
+// automatonOf reads an automaton from its number of states, its initial states,
+// its accepting states and its edges, between which there are bars.
+func automatonOf(text string) impl.Automaton {
+	lists := listsOf(text)
 	a := impl.Automaton{Initial: lists[1], Accepting: make([]bool, lists[0][0])}
 	for _, state := range lists[2] {
 		a.Accepting[state] = true
