@@ -364,20 +364,24 @@ func TestCheckFormulaAtTheLimits(t *testing.T) {
 
 // An argument that is not valid counts before a formula that is too large.
 func TestCheckFormulaOfInvalidArguments(t *testing.T) {
-	check := func(what string, g impl.Graph, labels []impl.Expr, f impl.Formula) {
-		t.Helper()
+	formulas := []impl.Formula{truth(), formulaOf(impl.FormulaNot, truth()), prefixed(5, impl.FormulaNext, atom(0)), mustParseFormula(t, "!FFFFp"), mustParseFormula(t, "((Xp&Xq)&Xr)")}
+	forInvalidChecks(formulas, func(what string, g impl.Graph, labels []impl.Expr, f impl.Formula) {
 		if verdict, trace := impl.CheckFormula(g, labels, f); verdict != impl.VerdictInvalid || !isZeroTrace(trace) {
 			t.Errorf("%s: CheckFormula = %d, %s", what, verdict, traceText(trace))
 		}
-	}
-	formulas := []impl.Formula{truth(), formulaOf(impl.FormulaNot, truth()), prefixed(5, impl.FormulaNext, atom(0)), mustParseFormula(t, "!FFFFp"), mustParseFormula(t, "((Xp&Xq)&Xr)")}
+	})
+}
+
+// forInvalidChecks goes through arguments of which some are not valid. The
+// formulas are used where it is another argument that is not.
+func forInvalidChecks(valid []impl.Formula, check func(string, impl.Graph, []impl.Expr, impl.Formula)) {
 	for name, g := range invalidGraphs() {
-		for _, f := range formulas {
+		for _, f := range valid {
 			check("g: "+name, g, plainLabels(), f)
 		}
 	}
 	for name, labels := range invalidLabels() {
-		for _, f := range formulas {
+		for _, f := range valid {
 			check("labels: "+name, ring(1), labels, f)
 			check("g and labels: "+name, impl.Graph{}, labels, f)
 		}

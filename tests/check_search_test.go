@@ -372,20 +372,23 @@ func TestFindTraceOfAcceptingNodesWithoutCycles(t *testing.T) {
 }
 
 func TestFindTraceOfInvalidArguments(t *testing.T) {
-	check := func(what string, g impl.Graph, labels []impl.Expr, a impl.Automaton) {
-		t.Helper()
+	forInvalidProducts(automatonOf("1|0|0|0 0 0 0"), func(what string, g impl.Graph, labels []impl.Expr, a impl.Automaton) {
 		if trace, ok := impl.FindTrace(g, labels, a); ok || !isZeroTrace(trace) {
 			t.Errorf("%s: FindTrace = %s, %v", what, traceText(trace), ok)
 		}
-	}
-	everything := automatonOf("1|0|0|0 0 0 0")
+	})
+}
+
+// forInvalidProducts goes through arguments of which some are not valid. The
+// automaton is used where it is another argument that is not.
+func forInvalidProducts(valid impl.Automaton, check func(string, impl.Graph, []impl.Expr, impl.Automaton)) {
 	for name, g := range invalidGraphs() {
-		check("g: "+name, g, plainLabels(), everything)
-		check("g and labels: "+name, g, nil, everything)
+		check("g: "+name, g, plainLabels(), valid)
+		check("g and labels: "+name, g, nil, valid)
 		check("g and a: "+name, g, plainLabels(), impl.Automaton{})
 	}
 	for name, labels := range invalidLabels() {
-		check("labels: "+name, ring(1), labels, everything)
+		check("labels: "+name, ring(1), labels, valid)
 		check("labels and a: "+name, ring(1), labels, impl.Automaton{})
 	}
 	for name, a := range invalidAutomata() {
